@@ -174,8 +174,8 @@ func TestWhere(t *testing.T) {
 			t.Errorf("%d stands at %d", n, got)
 		}
 	}
-	odd := api.Bnf{Of: []int{-2, 99, -1, -1, 0, math.MinInt, math.MaxInt}}
-	for n, want := range []int{0, 0, 0, 0, g.L[0].Pos, 0, 0} {
+	odd := api.Bnf{Of: []int{-2, 99, -1, -1, 0, math.MinInt, math.MaxInt, len(g.L), len(g.L) - 1}}
+	for n, want := range []int{0, 0, 0, 0, g.L[0].Pos, 0, 0, 0, g.L[len(g.L)-1].Pos} {
 		if got := clash.Where(g, odd, n); got != want {
 			t.Errorf("of odd rules %d stands at %d, want %d", n, got, want)
 		}

@@ -237,6 +237,46 @@ func TestParts(t *testing.T) {
 	}
 }
 
+// Promise 26.1: of each kind, children that are none, or of another kind.
+func TestChildren(t *testing.T) {
+	one := num(api.XInt, 1)
+	good := [][]api.Cnode{
+		{over(api.SVar, 2), one}, {over(api.SReturn, 2), one}, {over(api.SReturn)},
+		{over(api.SReturn, 2), with(over(api.XBin, 3, 4), func(x *api.Cnode) { x.N = 1 }), one, one},
+		{over(api.SSet, 2, 3), named(api.XVar, "x"), one}, {over(api.SIf, 2, 3), one, block()}, {over(api.SIf, 2, 3, 4), one, block(), block()}, {over(api.SFor, 2, 3), one, block()},
+		{over(api.SSwitch, 2), one}, {over(api.SSwitch, 2, 3), one, block()}, {over(api.SCall, 2), named(api.XCall, "f")},
+	}
+	bad := [][]api.Cnode{
+		{over(api.SVar)}, {over(api.SVar, 2), block()}, {over(api.SVar, 1)}, {over(api.SReturn, 2), block()}, {over(api.SReturn, 2), over(api.SReturn)},
+		{over(api.SReturn, 2), with(over(api.XBin, 3), func(x *api.Cnode) { x.N = 1 }), one},
+		{over(api.SReturn, 2), with(over(api.XBin, -1, 3), func(x *api.Cnode) { x.N = 1 }), one},
+		{over(api.SReturn, 2), with(over(api.XBin, 3, 4), func(x *api.Cnode) { x.N = 1 }), one, block()},
+		{over(api.SReturn, 2), with(over(api.XBin, 3, 4), func(x *api.Cnode) { x.N = 1 }), block(), one},
+		{over(api.SReturn, 2), over(api.XNot)}, {over(api.SReturn, 2), over(api.XNeg)}, {over(api.SReturn, 2), over(api.XNot, 3), block()}, {over(api.SReturn, 2), named(api.XField, "f")},
+		{over(api.SReturn, 2), with(named(api.XCall, "f"), func(x *api.Cnode) { x.L = []int{3} }), block()},
+		{over(api.SSet, 2), named(api.XVar, "x")}, {over(api.SSet, -1, 2), one}, {over(api.SSet, 2, 3), one, one}, {over(api.SSet, 2, 3), named(api.XVar, "x"), block()}, {over(api.SSet, 2, 3), block(), one}, {over(api.SSet, 2, 3), named(api.XNew, "x"), one},
+		{over(api.SIf, 2), one}, {over(api.SIf, -1, 2), block()}, {over(api.SIf, 2, 3), one, one}, {over(api.SIf, 2, 3), block(), block()}, {over(api.SIf, 2, 3, 4), one, block(), one}, {over(api.SIf, 2, 3, 4), one, block(), over(api.SReturn)}, {over(api.SIf, 2, 3), one, over(api.SReturn)},
+		{over(api.SFor, 2), one}, {over(api.SFor, -1, 2), block()}, {over(api.SFor, 2, 3), one, one}, {over(api.SFor, 2, 3), block(), block()},
+		{over(api.SSwitch)}, {over(api.SSwitch, 2), block()}, {over(api.SSwitch, -1, 2), block()}, {over(api.SSwitch, 2, 3), one, one},
+		{over(api.SCall)}, {over(api.SCall, 2), one}, {over(api.SCall, 2), block()},
+		{one}, {block()},
+		{over(api.SReturn), over(api.XNot, 2)}, {over(api.SReturn), over(api.XNot, 0)},
+	}
+	may := func(l []api.Cnode) api.Errno {
+		return code.May(api.Code{Funcs: []api.Func{{}}, L: append([]api.Cnode{block(1)}, l...)})
+	}
+	for i, l := range good {
+		if e := may(l); e != api.OK {
+			t.Errorf("good %d: %v", i, e)
+		}
+	}
+	for i, l := range bad {
+		if e := may(l); e != api.ErrForm {
+			t.Errorf("bad %d: %v", i, e)
+		}
+	}
+}
+
 // Promise 26.1: Kids, Leaf, Find.
 func TestAsk(t *testing.T) {
 	x := api.Cnode{Kind: 99, A: 5, B: -1, C: 3, L: []int{-1, 2, 2}, Cases: []api.Case{{L: []int{8}, Body: 9}, {Body: -1}}}

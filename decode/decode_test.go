@@ -81,6 +81,35 @@ func TestTree(t *testing.T) {
 	}
 }
 
+// Promise 37.1: the first object may be any of them.
+func TestFirst(t *testing.T) {
+	top := func(first int64) api.Object {
+		return api.Object{Type: 0, L: []api.Val{none, none, none, none, none, ref(first), none, none}}
+	}
+	state := func(top, first api.Val) api.Object {
+		return api.Object{Type: 2, L: []api.Val{num(0), top, first, none}}
+	}
+	root := node(1, 0, 0, 0, 0, none, none)
+	for i, x := range []struct {
+		v    api.Val
+		l    []api.Object
+		e    api.Errno
+		some int
+	}{
+		{ref(1), []api.Object{root, state(ref(2), none), top(0)}, api.OK, 0},
+		{ref(1), []api.Object{top(2), state(ref(0), none), root}, api.OK, 0},
+		{ref(1), []api.Object{wrong(0, 1, 1, none), state(ref(2), ref(0)), top(3), root}, api.OK, 1},
+		{ref(1), []api.Object{wrong(0, 1, 1, none), state(ref(2), ref(4)), top(3), root, wrong(0, 1, 1, ref(0))}, api.OK, 2},
+		{ref(1), []api.Object{root, state(ref(2), none), top(3), node(1, 0, 0, 0, 0, none, ref(0))}, api.ErrForm, 0},
+		{ref(1), []api.Object{root, state(ref(2), none), top(3), node(1, 0, 0, 0, 0, ref(0), none)}, api.OK, 0},
+	} {
+		got, diags, e := decode.Tree(api.Outcome{Kind: api.OutDone, V: x.v, L: x.l}, nil)
+		if e != x.e || len(diags) != x.some || (e == api.OK) != (len(got.L) > 0) {
+			t.Errorf("%d: %v, %v, %v", i, got, diags, e)
+		}
+	}
+}
+
 // Promise 37.1: what is no tree's outcome, each kind of it.
 func TestWrong(t *testing.T) {
 	cut := func(x *api.Object) { x.L = x.L[:len(x.L)-1] }

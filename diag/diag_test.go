@@ -61,6 +61,13 @@ func TestText(t *testing.T) {
 	}
 }
 
+// Promise 25.1: a choice that is the first node of all.
+func TestFirst(t *testing.T) {
+	if got, e := diag.Text(bound(t, "a: l=(A | B);"), of(0, api.DChoice, 1)); e != api.OK || got != "0: (A | B) awaited" {
+		t.Errorf("%q, %v", got, e)
+	}
+}
+
 // Promise 25.1: what may not be.
 func TestMayNot(t *testing.T) {
 	g := bound(t, rules)

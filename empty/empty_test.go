@@ -109,6 +109,14 @@ func TestRow(t *testing.T) {
 	}
 }
 
+// Promise 10.2: rows of 0, which may be nothing.
+func TestRowOf0(t *testing.T) {
+	b := rules(1, "0", "0X")
+	if !empty.Row(b, []api.Sym{{}, {}}) || empty.Row(b, []api.Sym{{}, {N: 1}}) {
+		t.Errorf("0 is no nonterminal")
+	}
+}
+
 // Promises 10.1 and 10.2: rules that may not be.
 func TestWrong(t *testing.T) {
 	form := rules(1, "01")

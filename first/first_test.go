@@ -243,6 +243,16 @@ func TestWords(t *testing.T) {
 			t.Errorf("most %d: %s, %v, want %s", most, tell(w), e, want)
 		}
 	}
+	b = rules(1, 2, "0X0", "0")
+	for most, want := range map[int]string{-5: "_", 0: "_", 1: "_ X", 4: "_ X XX XXX XXXX", 5: "_ X XX XXX XXXX", math.MaxInt: "_ X XX XXX XXXX"} {
+		if w, e := first.Words(b, 0, most); e != api.OK || tell(w) != want {
+			t.Errorf("most %d: %s, %v, want %s", most, tell(w), e, want)
+		}
+	}
+	// Many ways to put words together, but not many words.
+	if w, e := first.Words(wide(9, 1, 3, prod(1, 0, 1), prod(1), prod(2, 1, 1)), 2, 4); e != api.OK || len(w) != 1+9+81+729+6561 {
+		t.Errorf("%d words, %v", len(w), e)
+	}
 	for _, n := range []int{-1, 2, math.MinInt, math.MaxInt} {
 		if w, e := first.Words(b, n, 4); e != api.ErrNone || len(w) > 0 {
 			t.Errorf("there is no %d: %v, %v", n, w, e)

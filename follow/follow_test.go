@@ -171,6 +171,8 @@ func TestLimit(t *testing.T) {
 		{wide(24, 2, 4, prod(0, 2, 1, 1), two, three), api.OK},
 		{wide(24, 2, 4, prod(0, 2, 1, 1), prod(0, 2, 1), two, three), api.OK},
 		{wide(24, 2, 4, prod(0, 2, 1, 1), prod(0, 2, 1), prod(0, 2), two, three), api.ErrLimit},
+		// The row behind has 600.
+		{wide(24, 2, 5, prod(0, 2, 4), prod(4, 1, 1), prod(4, 1), two, three), api.OK},
 		// The row behind, or its first symbols, though nothing follows where it stands.
 		{wide(25, 2, 4, prod(0), prod(3, 2, 1, 1), two), api.ErrLimit},
 		{wide(25, 2, 5, prod(0), prod(3, 4, 1, 1, 4), prod(4, 4)), api.ErrLimit},

@@ -158,6 +158,7 @@ func TestMayNot(t *testing.T) {
 		{api.ErrForm, func(g *api.Grammar) { g.L = []api.Node{of(api.KAlt)} }},
 		{api.ErrForm, func(g *api.Grammar) { g.L = []api.Node{of(api.KPlus)} }},
 		{api.ErrForm, func(g *api.Grammar) { g.L = []api.Node{of(api.KOpt, 0)} }},
+		{api.ErrForm, func(g *api.Grammar) { g.L = []api.Node{of(api.KOpt, 0), tok("X")}; g.Rules[0].Root = 1 }},
 		{api.ErrDeep, func(g *api.Grammar) { *g = nested(api.MaxDeep + 1) }},
 	} {
 		g := change(x.f)

@@ -131,6 +131,20 @@ func TestValues(t *testing.T) {
 	}
 }
 
+// Promise 34.1: the first function may be called, too; what stands behind a return is not done.
+func TestFirst(t *testing.T) {
+	c, _, _ := parse.Parse("package p\nfunc one() int {\nreturn 5\n}\nfunc void(p *s) {\nreturn\np.n = 7\n}\ntype s struct {\nn int\n}\nfunc f() int {\np := new(s)\nvoid(p)\nreturn one() + p.n\n}\nfunc g() {\nreturn\ng()\n}\n")
+	if out, e := machine.Run(c, "f", nil, 100); e != api.OK || out.Kind != api.OutDone || out.V != num(5) || out.Steps != 1+2+5+3+3+2 {
+		t.Errorf("%v, %v", out, e)
+	}
+	if out, e := machine.Run(c, "one", nil, 100); e != api.OK || out.V != num(5) {
+		t.Errorf("%v, %v", out, e)
+	}
+	if out, e := machine.Run(c, "g", nil, 100); e != api.OK || out.Kind != api.OutDone || out.Steps != 2 {
+		t.Errorf("%v, %v", out, e)
+	}
+}
+
 // Promises 34.2 and 34.3: with less fuel the run ends where it must, with more it comes to the same.
 func fuel(t *testing.T, c api.Code, want api.Outcome) {
 	t.Helper()
@@ -226,7 +240,7 @@ func TestWrong(t *testing.T) {
 		fuel int
 		want api.Errno
 	}{
-		{form, "x", -1, api.ErrForm}, {named, "x", -1, api.ErrScope}, {typed, "x", -1, api.ErrType}, {good, "x", -1, api.ErrNone}, {good, "", 1, api.ErrNone}, {good, "look", 1, api.ErrNone}, {good, "add", -1, api.ErrNone}, {good, "set", 9, api.ErrNone}, {good, "f", -1, api.ErrArg}, {good, "f", math.MinInt, api.ErrArg}, {good, "f", 0, api.OK},
+		{form, "x", -1, api.ErrForm}, {named, "x", -1, api.ErrScope}, {typed, "x", -1, api.ErrType}, {good, "x", -1, api.ErrNone}, {good, "", 1, api.ErrNone}, {good, "look", 1, api.ErrNone}, {good, "add", -1, api.ErrNone}, {good, "set", 9, api.ErrNone}, {good, "deep", 9, api.ErrNone}, {good, "f", -1, api.ErrArg}, {good, "f", math.MinInt, api.ErrArg}, {good, "f", 0, api.OK},
 	} {
 		out, e := machine.Run(x.c, x.name, nil, x.fuel)
 		steps, ok := machine.Steps(x.c, x.name, nil, x.fuel)

@@ -133,6 +133,7 @@ func TestWrong(t *testing.T) {
 		{"if x {\n}\nelse {\n}\n", 9}, {"if {\n}\n", 3}, {"if x\n{\n}\n", 4}, {"if x {}\n", 6}, {"if x {\n} else y\n", 14}, {"if x {\n} {\n}\n", 9}, {"for {\n}\n", 4}, {"for x\n", 5}, {"return return\n", 7}, {"return x y\n", 9}, {"return = 1\n", 7},
 		{"switch {\n}\n", 7}, {"switch x {}\n", 10}, {"switch x {\ncase x:\n}\n", 16}, {"switch x {\ncase -1:\n}\n", 16}, {"switch x {\ncase 1,:\n}\n", 18}, {"switch x {\ncase 1 2:\n}\n", 18}, {"switch x {\ncase 1: y = 1\n}\n", 19}, {"switch x {\ncase:\n}\n", 15}, {"switch x {\ndefault:\ncase 1:\n}\n", 20}, {"switch x {\ndefault:\ndefault:\n}\n", 20}, {"switch x {\ny = 1\n}\n", 11},
 		{"{\n}\n", 0}, {"else\n", 0}, {"case 1:\n", 0}, {"x := 1 y := 2\n", 7}, {"func g() {\n}\n", 0}, {"type\n", 0}, {"package p\n", 0}, {"((x) := 1\n", 5}, {"x := y := 1\n", 7}, {"x = y = 1\n", 6},
+		{"x || y = 1\n", 7}, {"x || y\n", 6}, {"x && f()\n", 8}, {"x := if\n", 5}, {"x = struct\n", 4}, {"f(case)\n", 2}, {"x = y + int\n", 8}, {"x = !func\n", 5},
 	} {
 		l = append(l, w{frame(x.line), len("package p\nfunc f() {\n") + x.at, api.ErrText})
 	}

@@ -185,6 +185,7 @@ func TestGlobal(t *testing.T) {
 		func(c *api.Code) { c.Funcs[0].Result = "*x" },
 		func(c *api.Code) { c.Funcs[1].Result = " int" },
 		func(c *api.Code) { c.Structs = c.Structs[:1] },
+		func(c *api.Code) { c.Structs = append(c.Structs, api.Struct{Name: "s"}) },
 	} {
 		c := read(t, things)
 		f(&c)

@@ -49,6 +49,7 @@ func TestTable(t *testing.T) {
 		{full(), "(a l:X (b !Y <1..3>) m:(a) ?7 n:!Z (b Y) <4..6>)", []int{1, 2}, false},
 		{of(node(api.TRule, 0, 0, 0)), "(a)", nil, true},
 		{of(node(api.TRule, 2, 0, 0)), "(?)", nil, true},
+		{of(node(api.TRule, 0, 0, 0, 1), node(api.TLost, 1, 0, 0)), "(a !X)", nil, false},
 		{of(node(api.TRule, 1, 0, 2, 1, 2), node(api.TLeaf, 3, 0, 1), node(api.TLeaf, 4, 1, 2)), "(b Z ?)", []int{3, 4}, true},
 		{of(node(api.TRule, 1, 0, 0, 1, 2), node(api.TRule, 0, 0, 0), labelled("x", node(api.TGap, 0, 0, 0))), "(b (a) x:?0)", nil, false},
 		{of(labelled("l", node(api.TRule, 0, 0, 0, 1)), node(api.TLost, math.MaxInt, 0, 0)), "l:(a !?)", nil, false},
@@ -127,6 +128,11 @@ func TestMayNot(t *testing.T) {
 		func(t *api.Tree) { t.L[6].To = 4 },
 		func(t *api.Tree) { t.L[6].Kind = api.TSkip },
 		func(t *api.Tree) { t.L[7].At, t.L[7].To = -1, -1 },
+		func(t *api.Tree) { t.L[0].L[6] = 11 },
+		func(t *api.Tree) { *t = of(node(api.TRule, 0, 0, 0, 1), node(api.TSkip, 0, 0, 0)) },
+		func(t *api.Tree) {
+			*t = of(node(api.TRule, 0, 0, 1, 1), node(api.TLeaf, 1, 0, 1, 2), node(api.TLost, 1, 1, 1))
+		},
 		func(t *api.Tree) { *t = of(node(api.TRule, 0, 1, 1)) },
 		func(t *api.Tree) { *t = of(node(api.TRule, 0, 0, 1)) },
 		func(t *api.Tree) { *t = of(node(api.TRule, 0, 1, 0)) },
