@@ -168,7 +168,12 @@ func (r *reader) named() int {
 	if t.Kind == api.KName && !r.is(api.KSign, "(") {
 		return r.putNamed(api.XVar, t.S, -1)
 	}
+	// A program with so many calls within each other may not be, whatever follows.
+	if r.calls == mostCalls {
+		r.fail(0, api.ErrDeep)
+	}
 	r.sign("(")
+	r.calls++
 	var l []int
 	if r.e == api.OK && !r.is(api.KSign, ")") {
 		l = append(l, r.expr(1))
@@ -177,5 +182,6 @@ func (r *reader) named() int {
 		}
 	}
 	r.sign(")")
+	r.calls--
 	return r.putCall(t.S, l)
 }

@@ -192,6 +192,12 @@ func TestDeep(t *testing.T) {
 			t.Errorf("%d: %d, %v, want %d, %v", i, at, e, x.at, x.e)
 		}
 	}
+	if _, at, e := parse.Parse(frame("x := " + rep("f(", 499980))); at != 0 || e != api.ErrDeep {
+		t.Errorf("more calls within each other than are promised: %d, %v", at, e)
+	}
+	if _, at, e := parse.Parse(frame(rep("f(f(1))\n", 100000))); at != 0 || e != api.ErrFull {
+		t.Errorf("many calls behind each other: %d, %v", at, e)
+	}
 	// As deep as a text can be, of what is nested without end.
 	for _, s := range []string{"f(", "if x {\n} else ", "y + ", "y."} {
 		n := 990000 / len(s)
